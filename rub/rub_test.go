@@ -153,7 +153,7 @@ func wantErrorOfTwo(t *testing.T, a, b []int, want api.Errno) {
 }
 
 func TestRises(t *testing.T) { // P5.2
-	for _, row := range allRows(4) {
+	for _, row := range allRows(6) {
 		var want []int
 		for k := range len(row) + 1 {
 			want = append(want, riseOf(row, k))
